@@ -180,6 +180,7 @@ func TestHeader(t *testing.T) {
 		image := []byte(begun(g, 0, 1))
 		copy(image[128:], x.head)
 		d := opened(t, string(image))
+		d.Arm(0) // a device that is dead can be read
 		if !x.ok {
 			readRefused(t, d, g, api.ErrForm, x.head)
 		} else if l := logOf(t, d, g); l.Room() != 127 || l.Next() != x.seq {
